@@ -6,26 +6,19 @@ import (
 	"testing"
 
 	"truss/api"
+	"truss/build"
 	"truss/term"
 )
 
-func typ() api.Term { return api.Term{Op: api.TType} }
-
-func pi(domain, body api.Term) api.Term {
-	return api.Term{Op: api.TPi, Args: []api.Term{domain, body}}
-}
-
-func lam(body api.Term) api.Term { return api.Term{Op: api.TLam, Args: []api.Term{body}} }
-
-func app(head, n int, spine ...api.Term) api.Term {
-	return api.Term{Op: api.TApp, Head: head, N: n, Args: spine}
-}
-
-func v(n int, spine ...api.Term) api.Term { return app(api.HVar, n, spine...) }
-
-func c(n int, spine ...api.Term) api.Term { return app(api.HCon, n, spine...) }
-
-func meta(n int, spine ...api.Term) api.Term { return app(api.HMeta, n, spine...) }
+var (
+	typ  = build.Type
+	pi   = build.Pi
+	lam  = build.Lam
+	app  = build.App
+	v    = build.Var
+	c    = build.Con
+	meta = build.Meta
+)
 
 // to returns the simple type with these arguments, the last one of which is that of the result.
 func to(simples ...api.Simple) api.Simple {
@@ -38,7 +31,7 @@ func con(n int) api.Simple { return api.Simple{Con: n} }
 // nodes returns a term with as many nodes as count says that is nested 2 deep.
 func nodes(count int) api.Term { return c(0, leaves(count-1)...) }
 
-func leaves(count int) []api.Term { return slices.Repeat([]api.Term{c(1)}, count) }
+func leaves(count int) []api.Term { return build.Copies(count, c(1)) }
 
 // tower returns a term that is nested as deep as depth says.
 func tower(depth int, innermost api.Term) api.Term {
@@ -51,12 +44,7 @@ func tower(depth int, innermost api.Term) api.Term {
 
 // improper returns terms that are not proper.
 func improper() []api.Term {
-	endless := make([]api.Term, 1)
-	endless[0] = api.Term{Op: api.TLam, Args: endless}
-	return []api.Term{
-		{}, {Op: api.TLam}, v(-1), c(api.MaxN + 1), app(4, 0), lam(lam(meta(-1))), nodes(api.MaxNodes + 1), tower(api.MaxDepth+1, c(0)),
-		tower(100000, c(0)), endless[0],
-	}
+	return append(build.Improper(), nodes(api.MaxNodes+1), tower(api.MaxDepth+1, c(0)))
 }
 
 // large returns simple types that are not small.

@@ -7,25 +7,18 @@ import (
 	"testing"
 
 	"truss/api"
+	"truss/build"
 )
 
-func typ() api.Term { return api.Term{Op: api.TType} }
-
-func pi(domain, body api.Term) api.Term {
-	return api.Term{Op: api.TPi, Args: []api.Term{domain, body}}
-}
-
-func lam(body api.Term) api.Term { return api.Term{Op: api.TLam, Args: []api.Term{body}} }
-
-func app(head, n int, spine ...api.Term) api.Term {
-	return api.Term{Op: api.TApp, Head: head, N: n, Args: spine}
-}
-
-func v(n int, spine ...api.Term) api.Term { return app(api.HVar, n, spine...) }
-
-func c(n int, spine ...api.Term) api.Term { return app(api.HCon, n, spine...) }
-
-func m(n int, spine ...api.Term) api.Term { return app(api.HMeta, n, spine...) }
+var (
+	typ = build.Type
+	pi  = build.Pi
+	lam = build.Lam
+	app = build.App
+	v   = build.Var
+	c   = build.Con
+	m   = build.Meta
+)
 
 // tower returns a term that is nested as deep as depth says, around an innermost one that is nested 1 deep.
 func tower(depth int, innermost api.Term) api.Term {
@@ -45,55 +38,40 @@ func broad(nodes int) api.Term {
 	return t
 }
 
-// doubled returns a term of 2^levels leaves, whose nodes share their Args.
-func doubled(levels int) api.Term {
-	t := c(0)
-	for range levels {
-		t = c(0, t, t)
-	}
-	return t
-}
-
-// endless returns a term that contains itself.
-func endless() api.Term {
-	args := make([]api.Term, 1)
-	args[0] = api.Term{Op: api.TLam, Args: args}
-	return args[0]
-}
-
 // improper returns terms that are not proper.
 func improper() map[string]api.Term {
 	return map[string]api.Term{
-		"nothing":         {},
-		"negative Op":     {Op: -1},
-		"Op 5":            {Op: 5},
-		"type, Head":      {Op: api.TType, Head: api.HVar},
-		"type, N":         {Op: api.TType, N: 1},
-		"type, Args":      {Op: api.TType, Args: []api.Term{c(0)}},
-		"pi, no Args":     {Op: api.TPi},
-		"pi, 1 of Args":   {Op: api.TPi, Args: []api.Term{c(0)}},
-		"pi, 3 of Args":   {Op: api.TPi, Args: []api.Term{c(0), c(0), c(0)}},
-		"pi, Head":        {Op: api.TPi, Head: api.HCon, Args: []api.Term{c(0), c(0)}},
-		"pi, N":           {Op: api.TPi, N: 1, Args: []api.Term{c(0), c(0)}},
-		"lam, no Args":    {Op: api.TLam},
-		"lam, 2 of Args":  {Op: api.TLam, Args: []api.Term{c(0), c(0)}},
-		"lam, Head":       {Op: api.TLam, Head: api.HMeta, Args: []api.Term{c(0)}},
-		"lam, N":          {Op: api.TLam, N: -1, Args: []api.Term{c(0)}},
-		"app, no head":    {Op: api.TApp},
-		"app, head 4":     {Op: api.TApp, Head: 4},
-		"app, head -1":    {Op: api.TApp, Head: -1},
-		"variable -1":     v(-1),
-		"too great":       c(api.MaxN + 1),
-		"within domain":   pi(m(-1), c(0)),
-		"within body":     pi(c(0), lam(api.Term{})),
-		"within spine":    c(0, c(1), c(2, v(api.MaxN+1)), c(3)),
-		"too many nodes":  broad(api.MaxNodes + 1),
-		"too deep":        tower(api.MaxDepth+1, c(0)),
-		"spine too deep":  tower(api.MaxDepth, c(0, c(0))),
-		"far too many":    broad(100000),
-		"far too deep":    tower(100000, c(0)),
-		"2^60 leaves":     doubled(60),
-		"contains itself": endless(),
+		"nothing":        {},
+		"negative Op":    {Op: -1},
+		"Op 5":           {Op: 5},
+		"type, Head":     {Op: api.TType, Head: api.HVar},
+		"type, N":        {Op: api.TType, N: 1},
+		"type, Args":     {Op: api.TType, Args: []api.Term{c(0)}},
+		"pi, no Args":    {Op: api.TPi},
+		"pi, 1 of Args":  {Op: api.TPi, Args: []api.Term{c(0)}},
+		"pi, 3 of Args":  {Op: api.TPi, Args: []api.Term{c(0), c(0), c(0)}},
+		"pi, Head":       {Op: api.TPi, Head: api.HCon, Args: []api.Term{c(0), c(0)}},
+		"pi, N":          {Op: api.TPi, N: 1, Args: []api.Term{c(0), c(0)}},
+		"lam, no Args":   {Op: api.TLam},
+		"lam, 2 of Args": {Op: api.TLam, Args: []api.Term{c(0), c(0)}},
+		"lam, Head":      {Op: api.TLam, Head: api.HMeta, Args: []api.Term{c(0)}},
+		"lam, N":         {Op: api.TLam, N: -1, Args: []api.Term{c(0)}},
+		"app, no head":   {Op: api.TApp},
+		"app, head 4":    {Op: api.TApp, Head: 4},
+		"app, head -1":   {Op: api.TApp, Head: -1},
+		"variable -1":    v(-1),
+		"too great":      c(api.MaxN + 1),
+		"within domain":  pi(m(-1), c(0)),
+		"within body":    pi(c(0), lam(api.Term{})),
+		"within spine":   c(0, c(1), c(2, v(api.MaxN+1)), c(3)),
+		"too many nodes": broad(api.MaxNodes + 1),
+		"too deep":       tower(api.MaxDepth+1, c(0)),
+		"spine too deep": tower(api.MaxDepth, c(0, c(0))),
+		"far too many":   broad(100000),
+		"far too deep":   tower(100000, c(0)),
+		"2^60 leaves":    build.Doubled(60),
+		"TPi in itself":  build.Endless(api.TPi),
+		"TLam in itself": build.Endless(api.TLam),
 	}
 }
 

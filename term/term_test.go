@@ -5,6 +5,7 @@ import (
 	"testing"
 
 	"truss/api"
+	"truss/build"
 )
 
 // P3.1
@@ -42,7 +43,7 @@ func TestSize(t *testing.T) {
 		{lam(v(0, c(0), c(0, c(0)), c(0))), 6, 4},
 		{broad(api.MaxNodes), api.MaxNodes, 2},
 		{tower(api.MaxDepth, c(0)), api.MaxDepth, api.MaxDepth},
-		{doubled(8), 511, 9},
+		{build.Doubled(8), 511, 9},
 	}
 	for _, x := range sizes {
 		if nodes, depth, err := Size(x.term); nodes != x.nodes || depth != x.depth || err != api.OK {
