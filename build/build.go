@@ -91,6 +91,67 @@ func Implicit(n int, d api.Decl) api.Decl {
 	return d
 }
 
+// Hole returns a metavariable without a name that is not solved.
+func Hole(class api.Term) api.Meta { return api.Meta{Class: class} }
+
+// Named returns a metavariable that is not solved.
+func Named(name string, class api.Term) api.Meta { return api.Meta{Name: name, Class: class} }
+
+// Solved returns a metavariable without a name that is solved.
+func Solved(class, value api.Term) api.Meta {
+	return api.Meta{Class: class, Solved: true, Value: value}
+}
+
+// Classes returns the classes of a signature.
+func Classes(sig []api.Decl) []api.Term {
+	var list []api.Term
+	for _, d := range sig {
+		list = append(list, d.Class)
+	}
+	return list
+}
+
+// Parts returns the Classes and Values of metavariables.
+func Parts(metas []api.Meta) []api.Term {
+	var list []api.Term
+	for _, m := range metas {
+		list = append(list, m.Class, m.Value)
+	}
+	return list
+}
+
+// Apart reports whether no two places in results share memory, and none shares memory with arguments. It marks the results.
+func Apart(arguments, results []api.Term) bool {
+	marks := 0
+	mark := func(node *api.Term) {
+		marks--
+		node.N = marks
+	}
+	apart := true
+	for _, x := range results {
+		visit(x, mark)
+	}
+	marks = 0
+	for _, x := range results {
+		visit(x, func(node *api.Term) {
+			marks--
+			apart = apart && node.N == marks
+		})
+	}
+	for _, x := range arguments {
+		visit(x, func(node *api.Term) { apart = apart && node.N >= 0 })
+	}
+	return apart
+}
+
+// visit calls do for the places of all nodes below the outermost one.
+func visit(t api.Term, do func(node *api.Term)) {
+	for i := range t.Args {
+		do(&t.Args[i])
+		visit(t.Args[i], do)
+	}
+}
+
 // Flat returns a valid signature of so many constants: a family, and objects of it.
 func Flat(count int) []api.Decl {
 	sig := []api.Decl{Decl("a", Type())}
@@ -100,18 +161,53 @@ func Flat(count int) []api.Decl {
 	return sig
 }
 
+// The constants of Whole. (The first ones are those of Numbers.)
+const (
+	Nat = iota
+	Z
+	S
+	Plus
+	Pz
+	Ps
+	Vec
+	Empty
+	Cons
+	Tm
+	Lambda
+	Apply
+	Step
+	Beta
+	Each
+)
+
 // Numbers returns the signature of example 1 of DOC.md: nat, z, s, plus, pz and ps.
 func Numbers() []api.Decl {
-	const plus = 3
-	nat, z := Con(0), Con(1)
-	s := func(n api.Term) api.Term { return Con(2, n) }
-	premise := Con(plus, Var(2), Var(1), Var(0))
+	nat, z := Con(Nat), Con(Z)
+	s := func(n api.Term) api.Term { return Con(S, n) }
+	premise := Con(Plus, Var(2), Var(1), Var(0))
 	return []api.Decl{
 		Decl("nat", Type()),
 		Decl("z", nat),
 		Decl("s", To(nat, nat)),
 		Decl("plus", To(nat, nat, nat, Type())),
-		Implicit(1, Decl("pz", Pi(nat, Con(plus, z, Var(0), Var(0))))),
-		Implicit(3, Decl("ps", To(nat, nat, nat, premise, Con(plus, s(Var(3)), Var(2), s(Var(1)))))),
+		Implicit(1, Decl("pz", Pi(nat, Con(Plus, z, Var(0), Var(0))))),
+		Implicit(3, Decl("ps", To(nat, nat, nat, premise, Con(Plus, s(Var(3)), Var(2), s(Var(1)))))),
 	}
+}
+
+// Whole returns a valid signature: the examples 1 and 2 of DOC.md, with vectors, and with an argument that is a rule.
+func Whole() []api.Decl {
+	n, t := Con(Nat), Con(Tm)
+	fun := To(t, t)
+	return append(Numbers(),
+		Decl("vec", To(n, Type())),
+		Decl("empty", Con(Vec, Con(Z))),
+		Implicit(1, Decl("cons", To(n, n, Con(Vec, Var(1)), Con(Vec, Con(S, Var(2)))))),
+		Decl("tm", Type()),
+		Decl("lam", To(fun, t)),
+		Decl("app", To(t, t, t)),
+		Decl("step", To(t, t, Type())),
+		Implicit(2, Decl("beta", To(fun, t, Con(Step, Con(Apply, Con(Lambda, Lam(Var(2, Var(0)))), Var(0)), Var(1, Var(0)))))),
+		Decl("each", To(To(n, n), To(n, Con(Plus, Var(0), Var(1, Var(0)), Var(1, Var(0)))), Con(Vec, Var(1, Con(Z))))),
+	)
 }

@@ -22,43 +22,26 @@ var (
 	decl     = build.Decl
 	implicit = build.Implicit
 	many     = build.Flat
+	whole    = build.Whole
 )
 
-// The constants of whole.
 const (
-	nat = iota
-	z
-	s
-	plus
-	pz
-	ps
-	vec
-	empty
-	cons
-	tm
-	lambda
-	apply
-	step
-	beta
-	each
+	nat    = build.Nat
+	z      = build.Z
+	s      = build.S
+	plus   = build.Plus
+	pz     = build.Pz
+	ps     = build.Ps
+	vec    = build.Vec
+	empty  = build.Empty
+	cons   = build.Cons
+	tm     = build.Tm
+	lambda = build.Lambda
+	apply  = build.Apply
+	step   = build.Step
+	beta   = build.Beta
+	each   = build.Each
 )
-
-// whole returns a valid signature: the examples 1 and 2 of DOC.md, with vectors, and with an argument that is a rule.
-func whole() []api.Decl {
-	n, t := c(nat), c(tm)
-	fun := to(t, t)
-	return append(build.Numbers(),
-		decl("vec", to(n, typ())),
-		decl("empty", c(vec, c(z))),
-		implicit(1, decl("cons", to(n, n, c(vec, v(1)), c(vec, c(s, v(2)))))),
-		decl("tm", typ()),
-		decl("lam", to(fun, t)),
-		decl("app", to(t, t, t)),
-		decl("step", to(t, t, typ())),
-		implicit(2, decl("beta", to(fun, t, c(step, c(apply, c(lambda, lam(v(2, v(0)))), v(0)), v(1, v(0)))))),
-		decl("each", to(to(n, n), to(n, c(plus, v(0), v(1, v(0)), v(1, v(0)))), c(vec, v(1, c(z))))),
-	)
-}
 
 // some returns metavariables whose classes are types over whole.
 func some() []api.Meta {

@@ -5,6 +5,7 @@ import (
 
 	"truss/api"
 	"truss/check"
+	"truss/maker"
 	"truss/sign"
 	"truss/subst"
 	"truss/term"
@@ -17,20 +18,20 @@ type typing struct {
 }
 
 // typings calls do for so many different makes; it checks that there are TLams, variables and constants among them.
-func typings(t *testing.T, count int, do func(made *maker, x typing)) {
+func typings(t *testing.T, count int, do func(made *maker.Maker, x typing)) {
 	t.Helper()
-	made := newMaker()
+	made := maker.New(some())
 	seen := map[string]int{}
 	for range count {
-		x := typing{ctx: made.context(5)}
+		x := typing{ctx: made.Context(5)}
 		ok := false
-		if made.below(3) == 0 {
-			x.a, ok = made.class(x.ctx, 3)
+		if made.Below(3) == 0 {
+			x.a, ok = made.Class(x.ctx, 3)
 			if ok {
-				x.object, ok = made.object(x.ctx, x.a, 4)
+				x.object, ok = made.Object(x.ctx, x.a, 4)
 			}
 		} else {
-			x.object, x.a, ok = made.head(x.ctx, 4)
+			x.object, x.a, ok = made.Head(x.ctx, 4)
 		}
 		if !ok {
 			continue
@@ -48,16 +49,16 @@ func typings(t *testing.T, count int, do func(made *maker, x typing)) {
 // P6.1, and P6.3: what is made is typed; its type is a type, and the only one
 
 func TestMadeTermsAreTyped(t *testing.T) {
-	typings(t, 4000, func(made *maker, x typing) {
-		expect(t, "Context", check.Context(made.sig, made.metas, x.ctx), api.OK)
-		expect(t, "Type", check.Type(made.sig, made.metas, x.ctx, x.a), api.OK)
-		expect(t, "Object", check.Object(made.sig, made.metas, x.ctx, x.object, x.a), api.OK)
-		found, err := check.Infer(made.sig, made.metas, x.ctx, x.object)
+	typings(t, 4000, func(made *maker.Maker, x typing) {
+		expect(t, "Context", check.Context(made.Sig, made.Metas, x.ctx), api.OK)
+		expect(t, "Type", check.Type(made.Sig, made.Metas, x.ctx, x.a), api.OK)
+		expect(t, "Object", check.Object(made.Sig, made.Metas, x.ctx, x.object, x.a), api.OK)
+		found, err := check.Infer(made.Sig, made.Metas, x.ctx, x.object)
 		if x.object.Op == api.TApp {
 			expectTerm(t, "Infer", found, err, x.a, api.OK)
 		}
-		if other, ok := made.class(x.ctx, 3); ok && other.Op == api.TApp && x.a.Op == api.TApp && !term.Same(other, x.a) {
-			expect(t, "Object", check.Object(made.sig, made.metas, x.ctx, x.object, other), api.ErrType)
+		if other, ok := made.Class(x.ctx, 3); ok && other.Op == api.TApp && x.a.Op == api.TApp && !term.Same(other, x.a) {
+			expect(t, "Object", check.Object(made.Sig, made.Metas, x.ctx, x.object, other), api.ErrType)
 		}
 	})
 }
@@ -71,27 +72,27 @@ func TestAgainstOracle(t *testing.T) {
 			t.Errorf("%s of %v, %v in %v: error %d, the oracle's is %d", name, x.object, x.a, x.ctx, got, want)
 		}
 	}
-	typings(t, 4000, func(made *maker, x typing) {
-		o := oracle{sig: made.sig, metas: made.metas}
+	typings(t, 4000, func(made *maker.Maker, x typing) {
+		o := oracle{sig: made.Sig, metas: made.Metas}
 		inner := o.in(x.ctx)
 		for range 4 {
-			object, a, ctx := made.spoiled(x.object), made.spoiled(x.a), x.ctx
-			compare("Object", check.Object(made.sig, made.metas, ctx, object, x.a), inner.checkObject(object, evaluate(x.a, inner.env)), typing{ctx, object, x.a})
-			compare("Type", check.Type(made.sig, made.metas, ctx, a), inner.checkClass(a, api.TApp), typing{ctx, object, a})
-			compare("Kind", check.Kind(made.sig, made.metas, ctx, a), inner.checkClass(a, api.TType), typing{ctx, object, a})
+			object, a, ctx := made.Spoiled(x.object), made.Spoiled(x.a), x.ctx
+			compare("Object", check.Object(made.Sig, made.Metas, ctx, object, x.a), inner.checkObject(object, evaluate(x.a, inner.env)), typing{ctx, object, x.a})
+			compare("Type", check.Type(made.Sig, made.Metas, ctx, a), inner.checkClass(a, api.TApp), typing{ctx, object, a})
+			compare("Kind", check.Kind(made.Sig, made.Metas, ctx, a), inner.checkClass(a, api.TType), typing{ctx, object, a})
 			if object.Op == api.TApp {
 				found, err := inner.typeOf(object)
-				got, gotErr := check.Infer(made.sig, made.metas, ctx, object)
+				got, gotErr := check.Infer(made.Sig, made.Metas, ctx, object)
 				compare("Infer", gotErr, err, typing{ctx, object, x.a})
 				if err == api.OK && !term.Same(got, readBack(found, len(ctx))) {
 					t.Errorf("Infer of %v in %v = %v", object, ctx, got)
 				}
 			}
 			if len(ctx) > 0 {
-				at := made.below(len(ctx))
+				at := made.Below(len(ctx))
 				spoiled := append([]api.Term{}, ctx...)
-				spoiled[at] = made.spoiled(ctx[at])
-				compare("Context", check.Context(made.sig, made.metas, spoiled), o.context(spoiled), typing{ctx: spoiled})
+				spoiled[at] = made.Spoiled(ctx[at])
+				compare("Context", check.Context(made.Sig, made.Metas, spoiled), o.context(spoiled), typing{ctx: spoiled})
 			}
 		}
 	})
@@ -106,14 +107,14 @@ func TestAgainstOracle(t *testing.T) {
 
 func TestSubstitution(t *testing.T) {
 	count := 0
-	typings(t, 8000, func(made *maker, x typing) {
+	typings(t, 8000, func(made *maker.Maker, x typing) {
 		if len(x.ctx) == 0 {
 			return
 		}
 		// The variable n has the type at the position at.
-		at := made.below(len(x.ctx))
+		at := made.Below(len(x.ctx))
 		n := len(x.ctx) - 1 - at
-		s, ok := made.object(x.ctx[:at], x.ctx[at], 3)
+		s, ok := made.Object(x.ctx[:at], x.ctx[at], 3)
 		if !ok {
 			return
 		}
@@ -133,10 +134,10 @@ func TestSubstitution(t *testing.T) {
 			t.Fatalf("%v cannot be put for %d in %v", s, n, x)
 		}
 		count++
-		expect(t, "Context", check.Context(made.sig, made.metas, ctx), api.OK)
-		expect(t, "Object", check.Object(made.sig, made.metas, ctx, object, a), api.OK)
+		expect(t, "Context", check.Context(made.Sig, made.Metas, ctx), api.OK)
+		expect(t, "Object", check.Object(made.Sig, made.Metas, ctx, object, a), api.OK)
 		if object.Op == api.TApp {
-			found, err := check.Infer(made.sig, made.metas, ctx, object)
+			found, err := check.Infer(made.Sig, made.Metas, ctx, object)
 			expectTerm(t, "Infer", found, err, a, api.OK)
 		}
 	})
@@ -148,9 +149,9 @@ func TestSubstitution(t *testing.T) {
 // P6.5: a longer context, and a longer signature
 
 func TestWeakening(t *testing.T) {
-	typings(t, 4000, func(made *maker, x typing) {
-		at := made.below(len(x.ctx) + 1)
-		extra, ok := made.class(x.ctx[:at], 2)
+	typings(t, 4000, func(made *maker.Maker, x typing) {
+		at := made.Below(len(x.ctx) + 1)
+		extra, ok := made.Class(x.ctx[:at], 2)
 		if !ok {
 			return
 		}
@@ -165,12 +166,12 @@ func TestWeakening(t *testing.T) {
 		}
 		n := len(x.ctx) - at
 		object, a := shift(x.object, n), shift(x.a, n)
-		sig, err := check.Declare(made.sig, decl("more", to(c(nat), typ())))
+		sig, err := check.Declare(made.Sig, decl("more", to(c(nat), typ())))
 		expect(t, "Declare", err, api.OK)
-		for _, longer := range [][]api.Decl{made.sig, sig} {
-			expect(t, "Context", check.Context(longer, made.metas, ctx), api.OK)
-			expect(t, "Type", check.Type(longer, made.metas, ctx, a), api.OK)
-			expect(t, "Object", check.Object(longer, made.metas, ctx, object, a), api.OK)
+		for _, longer := range [][]api.Decl{made.Sig, sig} {
+			expect(t, "Context", check.Context(longer, made.Metas, ctx), api.OK)
+			expect(t, "Type", check.Type(longer, made.Metas, ctx, a), api.OK)
+			expect(t, "Object", check.Object(longer, made.Metas, ctx, object, a), api.OK)
 		}
 	})
 }

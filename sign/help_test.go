@@ -180,22 +180,10 @@ func checkNew(t *testing.T, change func(sig []api.Decl) ([]api.Decl, api.Errno))
 	if !isSame(room, append(numbers(), many(3)...)) {
 		t.Errorf("an argument has changed: %v", room)
 	}
-	seen := map[*api.Term]bool{}
-	var visit func(x api.Term, isResult bool)
-	visit = func(x api.Term, isResult bool) {
-		for i := range x.Args {
-			if isResult && seen[&x.Args[i]] {
-				t.Fatalf("memory is shared in %v", result)
-			}
-			seen[&x.Args[i]] = true
-			visit(x.Args[i], isResult)
-		}
+	if !build.Apart(build.Classes(sig), build.Classes(result)) {
+		t.Errorf("memory is shared in %v", result)
 	}
-	for _, d := range sig {
-		visit(d.Class, false)
-	}
-	for i, d := range result {
-		visit(d.Class, true)
+	for i := range result {
 		if &result[i] == &room[i] {
 			t.Errorf("the list is shared")
 		}
