@@ -280,3 +280,50 @@ func TestFreshIsTyped(t *testing.T) {
 		t.Errorf("only %d times", count)
 	}
 }
+
+// P8.8: what is formed stays so, whatever is well typed
+
+func TestSpoiledLists(t *testing.T) {
+	errors := map[api.Errno]int{}
+	formed := func(name string, list []api.Meta, err api.Errno) {
+		errors[err]++
+		if err == api.OK {
+			expect(t, "Check of "+name, meta.Check(list), api.OK)
+		}
+	}
+	lists(t, 60, func(made *maker.Maker) {
+		value, a, ok := made.Head(nil, 3)
+		if !ok {
+			return
+		}
+		metas := slices.Clone(made.Metas)
+		spoilt := &metas[made.Below(len(metas))]
+		if spoilt.Solved {
+			spoilt.Value = made.Spoiled(spoilt.Value)
+		} else {
+			spoilt.Class = made.Spoiled(spoilt.Class)
+		}
+		n := made.Below(len(metas))
+		value, a = made.Spoiled(value), made.Spoiled(a)
+		list, err := meta.All(metas)
+		formed("All", list, err)
+		list, err = meta.Solve(metas, n, value)
+		formed("Solve", list, err)
+		list, _, err = meta.Fresh(metas, "A", []api.Term{c(nat)}, a)
+		formed("Fresh", list, err)
+		list, _, _, err = meta.Open(metas, nil, a, 1)
+		formed("Open", list, err)
+		if abstract, _, err := meta.Abstract(metas, a); err == api.OK {
+			free, _ := term.Free(abstract)
+			left, err := term.Metas(abstract)
+			if err != api.OK || len(free) > 0 || len(left) > 0 {
+				t.Errorf("Abstract(%v) = %v", a, abstract)
+			}
+		}
+	})
+	for _, err := range []api.Errno{api.OK, api.ErrArg, api.ErrTwice, api.ErrShape, api.ErrScope, api.ErrLevel} {
+		if errors[err] < 50 {
+			t.Errorf("only %d times error %d", errors[err], err)
+		}
+	}
+}
