@@ -11,11 +11,9 @@ import (
 
 var (
 	typ      = build.Type
-	pi       = build.Pi
 	to       = build.To
 	lam      = build.Lam
 	lams     = build.Lams
-	app      = build.App
 	v        = build.Var
 	c        = build.Con
 	m        = build.Meta

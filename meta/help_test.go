@@ -27,15 +27,13 @@ var (
 )
 
 const (
-	nat    = build.Nat
-	z      = build.Z
-	s      = build.S
-	plus   = build.Plus
-	pz     = build.Pz
-	vec    = build.Vec
-	tm     = build.Tm
-	lambda = build.Lambda
-	apply  = build.Apply
+	nat  = build.Nat
+	z    = build.Z
+	s    = build.S
+	plus = build.Plus
+	pz   = build.Pz
+	vec  = build.Vec
+	tm   = build.Tm
 )
 
 // holes returns so many metavariables of the type nat.
