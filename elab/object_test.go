@@ -161,8 +161,16 @@ func TestKnownMetas(t *testing.T) {
 	x.expectType(t, "vec (F Z)", c(vec, c(s, c(z))), want)
 	x.expectObject(t, "N", c(vec, c(z)), m(3), want)
 	x.expectObject(t, "N", c(vec, m(1)), m(3), want)
+	x.expectType(t, "type", typ(), want)
+	x.expectObject(t, "_", n, m(4, v(0)), append(slices.Clip(want), hole(arrows(1))))
 	x.expectObject(t, "cons a N", c(vec, m(0, m(1))), c(cons, c(z), v(0), m(3)), append(want, solved(arrows(1), lam(c(z)))))
 	x.expectError(t, n, api.ErrShape, "Z Z", "Z a")
+	// What is left of a class is resolved before its TPis are counted.
+	metas = []api.Meta{solved(n, arrows(1))}
+	x = setting{sig: whole(), ctx: []api.Term{m(0)}, names: []string{"a"}}.with(metas...)
+	x.expectObject(t, "a z", n, v(0, c(z)), metas)
+	x.expectObject(t, "a", m(0), lam(v(1, v(0))), metas)
+	x.expectError(t, n, api.ErrShape, "a", "a z z")
 }
 
 // P10.2: the first use of a capital name
@@ -184,7 +192,7 @@ func TestFirstUse(t *testing.T) {
 	x.expectError(t, to(n, c(vec, v(4))), api.ErrScope, "K", "K f")
 	x.expectError(t, pi(n, c(vec, v(0))), api.ErrScope, "[y] K", "[y] K a")
 	// The arguments are different variables.
-	x.expectError(t, n, api.ErrOpen, "K z", "K (s a)", "K a a", "K a l a", "K _", "K ([y] y)", "K K", "K N", "K k", "K type", "K (K a)", "K nat", "K a (f a)")
+	x.expectError(t, n, api.ErrOpen, "K z", "K (s a)", "K a a", "K a l a", "K _", "K ([y] y)", "K ([a] a)", "K ({a:nat} nat)", "K K", "K N", "K k", "K type", "K (K a)", "K nat", "K a (f a)")
 	x.expectError(t, n, api.ErrOpen, "K l z", "K l a (s a)", "K l l")
 	// They are still arguments: a variable that has been written may be a function.
 	x.expectObject(t, "K (f)", n, m(0, lam(v(2, v(0)))), []api.Meta{named("K", to(arrows(1), n))})

@@ -124,6 +124,13 @@ func TestClosed(t *testing.T) {
 	expectTerm(t, "Closed", got, err, c(len(sig)+1, lam(v(0)), c(empty)), api.OK)
 	got, err = elab.Closed(left, raw(t, "q _ empty"), n)
 	expectTerm(t, "Closed", got, err, api.Term{}, api.ErrOpen)
+	// An equation of metavariables that are not in the object.
+	left = declared(t, left, "three : ((nat -> nat) -> nat) -> nat -> nat -> type.")
+	three := pi(c(len(left)-1, lam(c(z)), c(z), c(z)), n)
+	got, err = elab.Closed(left, raw(t, "[x:three ([g] G g) (G ([y] F y)) (F z)] z"), three)
+	expectTerm(t, "Closed", got, err, api.Term{}, api.ErrOpen)
+	got, err = elab.Closed(left, raw(t, "[x:three ([g] G g) (G ([y] F y)) z] z"), three)
+	expectTerm(t, "Closed", got, err, lam(c(z)), api.OK)
 	got, err = elab.Closed(left, raw(t, "q ([x] x) empty"), n)
 	expectTerm(t, "Closed", got, err, c(len(sig)+2, lam(v(0)), c(empty)), api.OK)
 }

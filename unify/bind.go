@@ -23,7 +23,7 @@ func (w *worker) binds(q api.Equation) bool {
 // this. It reports whether it has had an effect.
 func (w *worker) bind(q api.Equation, side, other api.Term) bool {
 	variables, ok := w.pattern(side)
-	if !ok || other.Head == api.HMeta && other.N == side.N {
+	if !ok {
 		return false
 	}
 	v := visitor{w, side.N, variables}
@@ -96,6 +96,7 @@ func (v visitor) visitMeta(t api.Term, binders int, rigidly bool) finding {
 	variables, isPattern := v.pattern(t)
 	switch {
 	case t.N == v.meta && rigidly && isPattern:
+		// It is not the head of the whole side: two patterns of one metavariable are another case.
 		stop.At(api.ErrClash)
 	case t.N == v.meta:
 		return obstacle

@@ -176,6 +176,9 @@ func TestOrder(t *testing.T) {
 	expectFailed(t, metas, list(inner(c(z), m(0), m(0), v(0)), shape), api.ErrClash)
 	expectFailed(t, metas, list(inner(m(1, v(0)), c(z), m(0), v(0)), clash), api.ErrScope)
 	expectFailed(t, metas, list(inner(c(s, m(0)), c(s, v(0)), c(z), c(s, c(z)))), api.ErrScope)
+	// So is an equation for which a metavariable has been cut.
+	cut := eq(2, m(0), c(plus, m(1, v(0)), v(0), c(z)))
+	expectFailed(t, metas, list(cut, clash), api.ErrScope)
 	// Those that are left wait behind all others until a metavariable gets a value.
 	waits := eq(1, m(1, m(0)), c(z))
 	expectUnified(t, metas, list(waits, waits), metas, waits, waits)

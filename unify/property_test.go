@@ -16,7 +16,7 @@ import (
 func TestPuzzles(t *testing.T) {
 	made := maker.New(nil)
 	left, done, cuts := 0, 0, 0
-	for range 6000 {
+	for range 4000 {
 		p := newPuzzle(made, 4, false)
 		if len(p.metas) > api.MaxMetas {
 			continue
@@ -44,7 +44,7 @@ func TestPuzzles(t *testing.T) {
 		expectSolved(t, p.Sig, after.Metas, p.list)
 		done++
 	}
-	if left < 1000 || done < 1500 || cuts < 300 {
+	if left < 1000 || done < 1000 || cuts < 200 {
 		t.Errorf("only %d puzzles that are solved, %d that are not, %d with a cut", done, left, cuts)
 	}
 }
@@ -165,7 +165,7 @@ func partly(made *maker.Maker) []api.Meta {
 func TestDependent(t *testing.T) {
 	made := maker.New(nil)
 	count, changed, left := 0, 0, 0
-	for range 3000 {
+	for range 1500 {
 		made.Metas = open()
 		ctx := made.Context(4)
 		x, a, ok := made.Head(ctx, 4)
@@ -201,7 +201,7 @@ func TestDependent(t *testing.T) {
 			expectSolved(t, made.Sig, p.Metas, list(q))
 		}
 	}
-	if count < 1000 || changed < 200 || left < 20 {
+	if count < 500 || changed < 100 || left < 10 {
 		t.Errorf("only %d equations, %d of different sides, %d that are left", count, changed, left)
 	}
 }
@@ -216,7 +216,7 @@ func resolvedBy(metas []api.Meta, x api.Term) api.Term {
 func TestTypedResults(t *testing.T) {
 	made := maker.New(open())
 	solvedOnes, failed := 0, 0
-	for range 20000 {
+	for range 10000 {
 		ctx := made.Context(4)
 		x, a, ok := made.Head(ctx, 4)
 		if !ok {
@@ -243,7 +243,7 @@ func TestTypedResults(t *testing.T) {
 			solvedOnes++
 		}
 	}
-	if solvedOnes < 500 || failed < 100 {
+	if solvedOnes < 250 || failed < 50 {
 		t.Errorf("only %d solutions, %d errors", solvedOnes, failed)
 	}
 }

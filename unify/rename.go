@@ -2,9 +2,10 @@ package unify
 
 import "truss/api"
 
-// A renaming is a correspondence of metavariables, in both directions.
+// A renaming is a one-to-one correspondence of metavariables: what each one becomes, and which ones are taken by this.
 type renaming struct {
-	to, from map[int]int
+	to    map[int]int
+	taken map[int]bool
 }
 
 // makes reports whether the renaming, or a larger one, which it becomes, makes u of t.
@@ -26,10 +27,9 @@ func (r renaming) makes(t, u api.Term) bool {
 // pairs reports whether two metavariables correspond, or may correspond from now on.
 func (r renaming) pairs(n, m int) bool {
 	to, known := r.to[n]
-	from, taken := r.from[m]
-	if known || taken {
-		return known && taken && to == m && from == n
+	if known || r.taken[m] {
+		return known && to == m
 	}
-	r.to[n], r.from[m] = m, n
+	r.to[n], r.taken[m] = m, true
 	return true
 }

@@ -112,22 +112,20 @@ func TestTypesLimits(t *testing.T) {
 	// The domains come first, then the context, then the bodies.
 	expectNoTypes(t, nats(api.MaxCtx), arrows(1), to(c(tm), n), api.ErrClash)
 	expectNoTypes(t, nats(api.MaxCtx), arrows(1), to(n, c(tm)), api.ErrFull)
-	// 27 equations for each plus, and one more.
-	adds := func(count int, x, y api.Term) api.Term {
-		return to(append(copies(count, c(plus, x, x, x)), append(copies(1, c(vec, y)), n)...)...)
-	}
-	two := func(x, y api.Term) api.Term { return to(c(vec, y), adds(26, x, y)) }
+	// Three equations for each plus.
+	adds := func(count int, x api.Term) api.Term { return to(append(copies(count, c(plus, x, x, x)), n)...) }
+	most := func(x api.Term) api.Term { return to(c(vec, x), c(vec, x), adds(26, x)) }
 	stuck := m(1, c(z))
-	p, err := unify.Types(whole(), metas, nil, two(stuck, stuck), two(c(z), c(z)))
+	p, err := unify.Types(whole(), metas, nil, most(stuck), most(c(z)))
 	if err != api.OK || len(p.Left) != api.MaxLeft {
 		t.Errorf("Types = %d equations, %d", len(p.Left), err)
 	}
-	p, err = unify.Types(whole(), metas, nil, adds(27, c(z), c(z)), adds(27, c(z), c(z)))
+	p, err = unify.Types(whole(), metas, nil, adds(27, c(z)), adds(27, c(z)))
 	expectNothing(t, "Types", p, err, api.ErrFull)
 	// Errors of collecting come before that there are too many, and this before the first clash.
-	p, err = unify.Types(whole(), metas, nil, to(adds(27, c(z), c(z)), n), to(adds(27, c(z), c(z)), c(tm)))
+	p, err = unify.Types(whole(), metas, nil, to(adds(27, c(z)), n), to(adds(27, c(z)), c(tm)))
 	expectNothing(t, "Types", p, err, api.ErrClash)
-	p, err = unify.Types(whole(), metas, nil, adds(27, c(z), c(z)), adds(27, c(s, c(z)), c(z)))
+	p, err = unify.Types(whole(), metas, nil, adds(27, c(z)), adds(27, c(s, c(z))))
 	expectNothing(t, "Types", p, err, api.ErrFull)
 	far := []api.Term{c(vec, v(api.MaxN))}
 	p, err = unify.Types(whole(), metas, far, n, n)
