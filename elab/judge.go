@@ -3,7 +3,6 @@ package elab
 import (
 	"truss/api"
 	"truss/scope"
-	"truss/sign"
 	"truss/stop"
 	"truss/subst"
 	"truss/term"
@@ -54,7 +53,7 @@ func (s *state) atomic(p place, r api.Raw) api.Term {
 		stop.At(api.ErrLevel)
 	}
 	family, ok := s.meaning(p, first.Name).(constant)
-	if !ok || !s.isFamily(family) {
+	if !ok || !isKind(s.sig[family].Class) {
 		stop.At(api.ErrLevel)
 	}
 	a, left := s.apply(p, family, written)
@@ -71,11 +70,6 @@ func parts(r api.Raw) (api.Raw, []api.Raw) {
 	}
 	first, written := parts(r.Args[0])
 	return first, append(written, r.Args[1])
-}
-
-func (s *state) isFamily(n constant) bool {
-	isFamily, _ := sign.IsFamily(s.sig, int(n))
-	return isFamily
 }
 
 // object returns the object of a raw expression at a type.
@@ -119,7 +113,7 @@ func (s *state) application(p place, r api.Raw, a api.Term) api.Term {
 			h = s.firstUse(p, first.Name, written, a)
 		}
 	case constant:
-		if s.isFamily(n) {
+		if isKind(s.sig[n].Class) {
 			stop.At(api.ErrLevel)
 		}
 	}
