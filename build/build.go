@@ -120,6 +120,35 @@ func Parts(metas []api.Meta) []api.Term {
 	return list
 }
 
+// isSame reports whether two terms are equal. (Package term cannot be used: its tests use this one.)
+func isSame(a, b api.Term) bool {
+	return a.Op == b.Op && a.Head == b.Head && a.N == b.N && slices.EqualFunc(a.Args, b.Args, isSame)
+}
+
+// SameMetas reports whether two lists of metavariables are the same.
+func SameMetas(a, b []api.Meta) bool {
+	return slices.EqualFunc(a, b, func(a, b api.Meta) bool {
+		return a.Name == b.Name && a.Solved == b.Solved && isSame(a.Class, b.Class) && isSame(a.Value, b.Value)
+	})
+}
+
+// SameProblem reports whether two problems are the same.
+func SameProblem(a, b api.Problem) bool {
+	return SameMetas(a.Metas, b.Metas) && slices.EqualFunc(a.Left, b.Left, func(a, b api.Equation) bool {
+		return slices.EqualFunc(a.Ctx, b.Ctx, isSame) && isSame(a.A, b.A) && isSame(a.B, b.B) && isSame(a.Class, b.Class)
+	})
+}
+
+// Terms returns all terms of a problem.
+func Terms(p api.Problem) []api.Term {
+	all := Parts(p.Metas)
+	for _, q := range p.Left {
+		all = append(all, q.Ctx...)
+		all = append(all, q.A, q.B, q.Class)
+	}
+	return all
+}
+
 // Apart reports whether no two places in results share memory, and none shares memory with arguments. It marks the results.
 func Apart(arguments, results []api.Term) bool {
 	marks := 0
@@ -179,6 +208,12 @@ const (
 	Beta
 	Each
 )
+
+// Nats returns so many types nat of Whole.
+func Nats(count int) []api.Term { return Copies(count, Con(Nat)) }
+
+// Arrows returns the type of the functions from so many numbers of Whole to one.
+func Arrows(count int) api.Term { return To(append(Nats(count), Con(Nat))...) }
 
 // Numbers returns the signature of example 1 of DOC.md: nat, z, s, plus, pz and ps.
 func Numbers() []api.Decl {

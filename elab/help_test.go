@@ -29,6 +29,9 @@ var (
 	solved = build.Solved
 	copies = build.Copies
 	whole  = build.Whole
+	nats   = build.Nats
+	arrows = build.Arrows
+	terms  = build.Terms
 )
 
 const (
@@ -46,10 +49,6 @@ const (
 	apply  = build.Apply
 	step   = build.Step
 )
-
-func nats(count int) []api.Term { return copies(count, c(nat)) }
-
-func arrows(count int) api.Term { return to(append(nats(count), c(nat))...) }
 
 // raw returns the raw expression of a text.
 func raw(t *testing.T, text string) api.Raw {
@@ -94,18 +93,6 @@ func expectTerm(t *testing.T, name string, got api.Term, err api.Errno, want api
 	if err != wantErr || !term.Same(got, want) {
 		t.Errorf("%s = %v, %d; want %v, %d", name, got, err, want, wantErr)
 	}
-}
-
-func isSameList(a, b []api.Meta) bool {
-	return slices.EqualFunc(a, b, func(a, b api.Meta) bool {
-		return a.Name == b.Name && a.Solved == b.Solved && term.Same(a.Class, b.Class) && term.Same(a.Value, b.Value)
-	})
-}
-
-func isSameLeft(a, b []api.Equation) bool {
-	return slices.EqualFunc(a, b, func(a, b api.Equation) bool {
-		return slices.EqualFunc(a.Ctx, b.Ctx, term.Same) && term.Same(a.A, b.A) && term.Same(a.B, b.B) && term.Same(a.Class, b.Class)
-	})
 }
 
 // shown returns the text of a closed term, with all arguments.

@@ -42,7 +42,7 @@ func (x setting) expectObject(t *testing.T, text string, a, want api.Term, metas
 	t.Helper()
 	p, got, err := x.object(t, text, a)
 	expectTerm(t, "Object of "+text, got, err, want, api.OK)
-	if !isSameList(p.Metas, metas) || !isSameLeft(p.Left, left) {
+	if !build.SameProblem(p, api.Problem{Metas: metas, Left: left}) {
 		t.Errorf("Object of %q: the state is %v, want %v, %v", text, p, metas, left)
 	}
 }
@@ -64,7 +64,7 @@ func (x setting) expectType(t *testing.T, text string, want api.Term, metas []ap
 	t.Helper()
 	p, got, err := elab.Type(x.sig, x.problem, x.ctx, x.names, raw(t, text))
 	expectTerm(t, "Type of "+text, got, err, want, api.OK)
-	if !isSameList(p.Metas, metas) || !isSameLeft(p.Left, left) {
+	if !build.SameProblem(p, api.Problem{Metas: metas, Left: left}) {
 		t.Errorf("Type of %q: the state is %v, want %v, %v", text, p, metas, left)
 	}
 }
@@ -278,13 +278,3 @@ func TestMemory(t *testing.T) {
 }
 
 func list(l ...api.Equation) []api.Equation { return l }
-
-// terms returns all terms of a state.
-func terms(p api.Problem) []api.Term {
-	all := build.Parts(p.Metas)
-	for _, q := range p.Left {
-		all = append(all, q.Ctx...)
-		all = append(all, q.A, q.B, q.Class)
-	}
-	return all
-}

@@ -12,7 +12,7 @@ func expectQuery(t *testing.T, sig []api.Decl, text string, want api.Term, metas
 	t.Helper()
 	list, got, err := elab.Query(sig, raw(t, text))
 	expectTerm(t, "Query of "+text, got, err, want, api.OK)
-	if !isSameList(list, metas) {
+	if !build.SameMetas(list, metas) {
 		t.Errorf("Query of %q: the metavariables are %v, want %v", text, list, metas)
 	}
 }

@@ -107,15 +107,9 @@ func expectTerm(t *testing.T, name string, got api.Term, err api.Errno, want api
 	}
 }
 
-func isSameList(a, b []api.Meta) bool {
-	return slices.EqualFunc(a, b, func(a, b api.Meta) bool {
-		return a.Name == b.Name && a.Solved == b.Solved && term.Same(a.Class, b.Class) && term.Same(a.Value, b.Value)
-	})
-}
-
 func expectList(t *testing.T, name string, got []api.Meta, err api.Errno, want []api.Meta, wantErr api.Errno) {
 	t.Helper()
-	if err != wantErr || !isSameList(got, want) {
+	if err != wantErr || !build.SameMetas(got, want) {
 		t.Errorf("%s = %v, %d; want %v, %d", name, got, err, want, wantErr)
 	}
 }

@@ -27,6 +27,8 @@ func expectTerm(t *testing.T, name string, compute func() api.Term, want api.Ter
 	}
 }
 
+// P9.1, P10.2: contexts
+
 func TestContexts(t *testing.T) {
 	ctx := build.Copies(api.MaxCtx, c(0))
 	longer, err := stop.Result(func() []api.Term { return scope.Longer(ctx[:api.MaxCtx-1], c(1)) })
@@ -55,6 +57,8 @@ func TestContexts(t *testing.T) {
 	}
 }
 
+// P9.1 (values), P10.1 (first uses): terms where other variables are in scope
+
 func TestOnto(t *testing.T) {
 	for _, x := range []struct {
 		variables []int
@@ -80,6 +84,8 @@ func TestOnto(t *testing.T) {
 		}
 	}
 }
+
+// P9.1: what is bound and what is free
 
 func TestArgs(t *testing.T) {
 	for _, x := range []struct {
@@ -109,6 +115,8 @@ func TestArgs(t *testing.T) {
 		}
 	}
 }
+
+// P9.1, P10.1: terms that are not proper
 
 func TestUnder(t *testing.T) {
 	expectTerm(t, "Under", func() api.Term { return scope.Under(2, v(1)) }, lam(lam(v(1))), api.OK)

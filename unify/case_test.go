@@ -238,13 +238,3 @@ func TestMemory(t *testing.T) {
 		t.Errorf("Match = %v, %d shares memory", p, err)
 	}
 }
-
-// terms returns all terms of a problem.
-func terms(p api.Problem) []api.Term {
-	all := build.Parts(p.Metas)
-	for _, q := range p.Left {
-		all = append(all, q.Ctx...)
-		all = append(all, q.A, q.B, q.Class)
-	}
-	return all
-}

@@ -6,7 +6,6 @@ import (
 
 	"truss/api"
 	"truss/build"
-	"truss/term"
 	"truss/unify"
 )
 
@@ -25,6 +24,9 @@ var (
 	solved = build.Solved
 	copies = build.Copies
 	whole  = build.Whole
+	nats   = build.Nats
+	arrows = build.Arrows
+	terms  = build.Terms
 )
 
 const (
@@ -42,12 +44,6 @@ const (
 	apply  = build.Apply
 	step   = build.Step
 )
-
-// nats returns a context of so many types, all of them nat.
-func nats(count int) []api.Term { return copies(count, c(nat)) }
-
-// arrows returns the type of functions of so many numbers.
-func arrows(count int) api.Term { return to(append(nats(count), c(nat))...) }
 
 // some returns metavariables, none of them solved: number n (from 0 to 3) takes n numbers, number 4 a function.
 func some() []api.Meta {
@@ -75,23 +71,9 @@ func expect(t *testing.T, name string, got, want api.Errno) {
 	}
 }
 
-func isSameTerms(a, b []api.Term) bool { return slices.EqualFunc(a, b, term.Same) }
-
-func isSameList(a, b []api.Meta) bool {
-	return slices.EqualFunc(a, b, func(a, b api.Meta) bool {
-		return a.Name == b.Name && a.Solved == b.Solved && term.Same(a.Class, b.Class) && term.Same(a.Value, b.Value)
-	})
-}
-
-func isSameLeft(a, b []api.Equation) bool {
-	return slices.EqualFunc(a, b, func(a, b api.Equation) bool {
-		return isSameTerms(a.Ctx, b.Ctx) && term.Same(a.A, b.A) && term.Same(a.B, b.B) && term.Same(a.Class, b.Class)
-	})
-}
-
 func expectProblem(t *testing.T, name string, got api.Problem, err api.Errno, want api.Problem) {
 	t.Helper()
-	if err != api.OK || !isSameList(got.Metas, want.Metas) || !isSameLeft(got.Left, want.Left) {
+	if err != api.OK || !build.SameProblem(got, want) {
 		t.Errorf("%s = %v, %d; want %v", name, got, err, want)
 	}
 }

@@ -4,6 +4,7 @@ import (
 	"testing"
 
 	"truss/api"
+	"truss/build"
 	"truss/unify"
 )
 
@@ -43,7 +44,7 @@ func TestMatch(t *testing.T) {
 	for _, q := range []api.Equation{eq(0, c(s, m(0)), c(s, c(s, c(z)))), eq(2, m(1, v(1)), c(s, v(0))), eq(0, m(0), c(s, m(0)))} {
 		p, err := unify.Unify(whole(), metas, list(q))
 		again, againErr := unify.Match(whole(), metas, 0, list(q))
-		if err != againErr || !isSameList(p.Metas, again.Metas) {
+		if err != againErr || !build.SameMetas(p.Metas, again.Metas) {
 			t.Errorf("Match with 0 = %v, %d; Unify = %v, %d", again, againErr, p, err)
 		}
 	}
