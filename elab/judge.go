@@ -3,6 +3,7 @@ package elab
 import (
 	"truss/api"
 	"truss/scope"
+	"truss/shape"
 	"truss/stop"
 	"truss/subst"
 	"truss/term"
@@ -33,17 +34,10 @@ func (s *state) class(p place, r api.Raw) api.Term {
 // domain returns the type of a raw expression that must not be a kind.
 func (s *state) domain(p place, r api.Raw) api.Term {
 	a := s.class(p, r)
-	if isKind(a) {
+	if shape.IsKind(a) {
 		stop.At(api.ErrLevel)
 	}
 	return a
-}
-
-func isKind(class api.Term) bool {
-	for class.Op == api.TPi {
-		class = class.Args[1]
-	}
-	return class.Op == api.TType
 }
 
 // atomic returns the type that is a family with arguments.
@@ -53,7 +47,7 @@ func (s *state) atomic(p place, r api.Raw) api.Term {
 		stop.At(api.ErrLevel)
 	}
 	family, ok := s.meaning(p, first.Name).(constant)
-	if !ok || !isKind(s.sig[family].Class) {
+	if !ok || !shape.IsKind(s.sig[family].Class) {
 		stop.At(api.ErrLevel)
 	}
 	a, left := s.apply(p, family, written)
@@ -113,7 +107,7 @@ func (s *state) application(p place, r api.Raw, a api.Term) api.Term {
 			h = s.firstUse(p, first.Name, written, a)
 		}
 	case constant:
-		if isKind(s.sig[n].Class) {
+		if shape.IsKind(s.sig[n].Class) {
 			stop.At(api.ErrLevel)
 		}
 	}

@@ -3,6 +3,7 @@ package sign
 import (
 	"truss/api"
 	"truss/lexis"
+	"truss/shape"
 	"truss/term"
 )
 
@@ -23,11 +24,11 @@ func isNext(before []api.Decl, d api.Decl) bool {
 	if !isName(d.Name) || term.Check(d.Class) != api.OK || !isOver(before, d.Class, 0) {
 		return false
 	}
-	end, count := result(d.Class)
+	end, count := shape.Result(d.Class)
 	if d.Implicit < 0 || d.Implicit > count {
 		return false
 	}
-	return end.Op == api.TType || end.Head == api.HCon && isFamily(before[end.N])
+	return end.Op == api.TType || end.Head == api.HCon && shape.IsKind(before[end.N].Class)
 }
 
 func isName(s string) bool {

@@ -5,6 +5,7 @@ import (
 	"slices"
 
 	"truss/api"
+	"truss/shape"
 	"truss/term"
 )
 
@@ -21,27 +22,12 @@ func positions(sig []api.Decl) map[string]int {
 func objects(sig []api.Decl) iter.Seq2[int, int] {
 	return func(yield func(n, target int) bool) {
 		for n, d := range sig {
-			end, _ := result(d.Class)
+			end, _ := shape.Result(d.Class)
 			if end.Head == api.HCon && !yield(n, end.N) {
 				return
 			}
 		}
 	}
-}
-
-// result returns what the outermost TPis of a proper term are around, and how many they are.
-func result(t api.Term) (api.Term, int) {
-	count := 0
-	for t.Op == api.TPi {
-		t = t.Args[1]
-		count++
-	}
-	return t, count
-}
-
-func isFamily(d api.Decl) bool {
-	end, _ := result(d.Class)
-	return end.Op == api.TType
 }
 
 func contains(class api.Term, constant int) bool {
@@ -75,7 +61,7 @@ func levelOf(sig []api.Decl, t api.Term) level {
 		}
 		return noLevel
 	}
-	if t.Head == api.HCon && isFamily(sig[t.N]) {
+	if t.Head == api.HCon && shape.IsKind(sig[t.N].Class) {
 		return typeLevel
 	}
 	return objectLevel
