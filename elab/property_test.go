@@ -115,45 +115,6 @@ type writer struct {
 	*maker.Maker
 }
 
-// omitting returns a raw expression in which some arguments are omitted, or names that are not known; names are those of the
-// variables in scope.
-func (w writer) omitting(r api.Raw, names []string) api.Raw {
-	result := api.Raw{Op: r.Op, Name: r.Name}
-	for i, arg := range r.Args {
-		switch {
-		case r.Op == api.RApp && i == 1 && w.Below(4) == 0:
-			arg = w.omitted(names)
-		case (r.Op == api.RPi || r.Op == api.RLam) && i == 1:
-			arg = w.omitting(arg, append(slices.Clip(names), r.Name))
-		default:
-			arg = w.omitting(arg, names)
-		}
-		result.Args = append(result.Args, arg)
-	}
-	return result
-}
-
-// omitted returns a hole, or a capital name with variables; now and then something else.
-func (w writer) omitted(names []string) api.Raw {
-	name := func(s string) api.Raw { return api.Raw{Op: api.RName, Name: s} }
-	apply := func(f, x api.Raw) api.Raw { return api.Raw{Op: api.RApp, Args: []api.Raw{f, x}} }
-	r := name(string(rune('A' + w.Below(5))))
-	switch w.Below(20) {
-	case 0, 1, 2, 3, 4, 5:
-		return api.Raw{Op: api.RHole}
-	case 6:
-		return name([]string{"z", "s", "empty", "lam", "beta"}[w.Below(5)])
-	case 7:
-		return apply(r, name("z"))
-	}
-	for _, s := range names {
-		if w.Below(3) > 0 {
-			r = apply(r, name(s))
-		}
-	}
-	return r
-}
-
 // renamed returns a raw expression with other names of bound variables, and other capital names.
 func renamed(r api.Raw, names map[string]string, count int) api.Raw {
 	result := api.Raw{Op: r.Op, Name: r.Name}
@@ -196,7 +157,7 @@ func TestOmitted(t *testing.T) {
 		if !ok || err != api.OK {
 			continue
 		}
-		r = w.omitting(r, nil)
+		r = w.Omitting(r, nil)
 		class, n, err := elab.Class(sig, r)
 		errors[err]++
 		again, k, againErr := elab.Class(sig, renamed(r, nil, 0))
@@ -244,7 +205,7 @@ func TestOmittedInObjects(t *testing.T) {
 			continue
 		}
 		names := variables(len(ctx))
-		p, got, err := elab.Object(sig, api.Problem{Metas: w.Metas}, ctx, names, w.omitting(r, names), a)
+		p, got, err := elab.Object(sig, api.Problem{Metas: w.Metas}, ctx, names, w.Omitting(r, names), a)
 		errors[err]++
 		if err != api.OK {
 			continue
