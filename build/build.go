@@ -91,6 +91,18 @@ func Implicit(n int, d api.Decl) api.Decl {
 	return d
 }
 
+// Unformed returns signatures that are not formed.
+func Unformed() [][]api.Decl {
+	list := [][]api.Decl{
+		append(Numbers(), Decl("s", Con(Nat))), append(Numbers(), Decl("k", Con(99))), append(Numbers(), Decl("K", Con(Nat))),
+		Flat(api.MaxDecls + 1), make([]api.Decl, 100000), {Decl("a", Meta(0))}, {Decl("a", Con(0))}, {Implicit(1, Decl("a", Type()))}, {{}},
+	}
+	for _, class := range Improper() {
+		list = append(list, []api.Decl{Decl("a", class)}, []api.Decl{Decl("a", Type()), Decl("b", Pi(class, Con(0)))})
+	}
+	return list
+}
+
 // Hole returns a metavariable without a name that is not solved.
 func Hole(class api.Term) api.Meta { return api.Meta{Class: class} }
 

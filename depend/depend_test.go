@@ -10,6 +10,7 @@ import (
 	"truss/check"
 	"truss/depend"
 	"truss/load"
+	"truss/written"
 )
 
 // The examples of the document
@@ -23,7 +24,7 @@ func TestExamples(t *testing.T) {
 		t.Errorf("Below = %v, %d", ok, err)
 	}
 	expectGroups(t, "numbers", sig, []int{nat}, []int{plus})
-	terms := sigOf(t, "tm : type. lam : (tm -> tm) -> tm. app : tm -> tm -> tm.")
+	terms := written.Sig("tm : type. lam : (tm -> tm) -> tm. app : tm -> tm -> tm.")
 	if ok, err := depend.Below(terms, 0, 0); !ok || err != api.OK {
 		t.Errorf("Below = %v, %d", ok, err)
 	}
@@ -32,7 +33,7 @@ func TestExamples(t *testing.T) {
 	}
 	slice, old, err := depend.Slice(sig, []int{ps})
 	expectList(t, "Slice", old, err, []int{nat, s, plus, ps}, api.OK)
-	want := sigOf(t, "nat : type. s : nat -> nat. plus : nat -> nat -> nat -> type. ps : plus (s M) N (s P) <- plus M N P.")
+	want := written.Sig("nat : type. s : nat -> nat. plus : nat -> nat -> nat -> type. ps : plus (s M) N (s P) <- plus M N P.")
 	if !load.Same(api.Loaded{Sig: slice}, api.Loaded{Sig: want}) {
 		t.Errorf("Slice = %v", slice)
 	}
@@ -142,7 +143,7 @@ func TestBelow(t *testing.T) {
 		{"a : type. k : a. b : a -> type. d : type. l : b k -> d.", map[int][]int{0: {0}, 2: {0, 2}, 3: {0, 2, 3}}},
 		{"a : type. k : a. b : (a -> a) -> type. d : type. l : b ([x] k).", map[int][]int{0: {0}, 2: {0, 2}, 3: {3}}},
 	} {
-		expectBelow(t, sigOf(t, x.source), x.want)
+		expectBelow(t, written.Sig(x.source), x.want)
 	}
 	expectBelow(t, build.Whole(), map[int][]int{nat: {nat}, plus: {nat, plus}, vec: {nat, plus, vec}, tm: {tm}, step: {tm, step}})
 }
@@ -156,16 +157,16 @@ func TestBelowOdd(t *testing.T) {
 
 func TestGroups(t *testing.T) {
 	expectGroups(t, "nothing", nil)
-	expectGroups(t, "an object of a", sigOf(t, "a : type. k : a."), []int{0})
-	expectGroups(t, "a circle", sigOf(t, "a : type. b : type. k : a -> b. l : b -> a."), []int{0, 1})
+	expectGroups(t, "an object of a", written.Sig("a : type. k : a."), []int{0})
+	expectGroups(t, "a circle", written.Sig("a : type. b : type. k : a -> b. l : b -> a."), []int{0, 1})
 	// The lower ones first; of several ones the one with the smallest family.
-	expectGroups(t, "b below a", sigOf(t, "a : type. b : type. k : b -> a."), []int{1}, []int{0})
-	expectGroups(t, "d below a", sigOf(t, "a : type. b : type. d : type. k : d -> a."), []int{1}, []int{2}, []int{0})
-	expectGroups(t, "d below b", sigOf(t, "a : type. b : type. d : type. k : d -> b."), []int{0}, []int{2}, []int{1})
+	expectGroups(t, "b below a", written.Sig("a : type. b : type. k : b -> a."), []int{1}, []int{0})
+	expectGroups(t, "d below a", written.Sig("a : type. b : type. d : type. k : d -> a."), []int{1}, []int{2}, []int{0})
+	expectGroups(t, "d below b", written.Sig("a : type. b : type. d : type. k : d -> b."), []int{0}, []int{2}, []int{1})
 	// A group that could not come comes as soon as it can.
-	expectGroups(t, "e below a", sigOf(t, "a : type. b : type. d : type. e : type. k : b -> a. l : d -> a."), []int{1}, []int{2}, []int{0}, []int{3})
-	expectGroups(t, "circles", sigOf(t, "a : type. b : type. d : type. e : type. k : a -> d. l : d -> a. m : b -> e. n : e -> b. o : e -> a."), []int{1, 3}, []int{0, 2})
-	expectGroups(t, "a circle of three", sigOf(t, "a : type. b : type. d : type. e : type. k : a -> d. l : d -> e. m : e -> a. o : b -> e."), []int{1}, []int{0, 2, 3})
+	expectGroups(t, "e below a", written.Sig("a : type. b : type. d : type. e : type. k : b -> a. l : d -> a."), []int{1}, []int{2}, []int{0}, []int{3})
+	expectGroups(t, "circles", written.Sig("a : type. b : type. d : type. e : type. k : a -> d. l : d -> a. m : b -> e. n : e -> b. o : e -> a."), []int{1, 3}, []int{0, 2})
+	expectGroups(t, "a circle of three", written.Sig("a : type. b : type. d : type. e : type. k : a -> d. l : d -> e. m : e -> a. o : b -> e."), []int{1}, []int{0, 2, 3})
 	expectGroups(t, "Whole", build.Whole(), []int{nat}, []int{plus}, []int{vec}, []int{tm}, []int{step})
 }
 
@@ -262,7 +263,7 @@ func TestHigher(t *testing.T) {
 		"a : type. b : type. k : (b -> b) -> a. l : a -> b.":    true,
 		"a : type. b : type. k : (b -> b -> b) -> b -> a -> a.": true,
 	} {
-		if got, err := depend.Higher(sigOf(t, source), 0); got != want || err != api.OK {
+		if got, err := depend.Higher(written.Sig(source), 0); got != want || err != api.OK {
 			t.Errorf("Higher of %q = %v, %d", source, got, err)
 		}
 	}
@@ -271,7 +272,7 @@ func TestHigher(t *testing.T) {
 			t.Errorf("Higher(%d) = %v, %d", family, got, err)
 		}
 	}
-	sig := sigOf(t, "a : type. b : (a -> a) -> type. k : b ([x] x).")
+	sig := written.Sig("a : type. b : (a -> a) -> type. k : b ([x] x).")
 	if got, err := depend.Higher(sig, 1); got || err != api.OK {
 		t.Errorf("Higher = %v, %d", got, err)
 	}

@@ -79,7 +79,7 @@ func TestLevel(t *testing.T) {
 // P12.1 to P12.4: ErrArg, before all other errors
 
 func TestUnformed(t *testing.T) {
-	for _, sig := range unformed() {
+	for _, sig := range build.Unformed() {
 		for _, n := range []int{0, 1, -1, 1000} {
 			expectErrors(t, sig, n, api.ErrArg, api.ErrArg)
 		}

@@ -8,7 +8,6 @@ import (
 	"truss/api"
 	"truss/build"
 	"truss/depend"
-	"truss/load"
 )
 
 var (
@@ -33,28 +32,6 @@ const (
 	tm   = build.Tm
 	step = build.Step
 )
-
-// sigOf returns the signature of a source that has no error.
-func sigOf(t *testing.T, source string) []api.Decl {
-	t.Helper()
-	l, at, err := load.Load(source)
-	if err != api.OK {
-		t.Fatalf("Load of %q: error %d at %d", source, err, at)
-	}
-	return l.Sig
-}
-
-// unformed returns signatures that are not formed.
-func unformed() [][]api.Decl {
-	list := [][]api.Decl{
-		append(build.Numbers(), decl("s", c(nat))), append(build.Numbers(), decl("k", c(99))), append(build.Numbers(), decl("K", c(nat))),
-		build.Flat(api.MaxDecls + 1), make([]api.Decl, 100000), {decl("a", m(0))}, {decl("a", c(0))}, {build.Implicit(1, decl("a", typ()))}, {{}},
-	}
-	for _, class := range build.Improper() {
-		list = append(list, []api.Decl{decl("a", class)}, []api.Decl{decl("a", typ()), decl("b", pi(class, c(0)))})
-	}
-	return list
-}
 
 // An oddity is a formed signature that is not valid, and which families are below each family.
 type oddity struct {

@@ -13,14 +13,14 @@ func (s *state) firstUse(p place, name string, written []api.Raw, a api.Term) he
 	variables := variablesOf(p, written)
 	var types []api.Term
 	for _, n := range variables {
-		types = append(types, s.resolved(scope.TypeOf(p.ctx, n)))
+		types = append(types, s.Resolved(scope.TypeOf(p.ctx, n)))
 	}
 	var ctx []api.Term
 	for i, b := range types {
 		ctx = append(ctx, onto(variables[:i], b))
 	}
-	s.fresh(name, ctx, onto(variables, a))
-	return metavariable(len(s.metas) - 1)
+	s.Fresh(name, ctx, onto(variables, a))
+	return metavariable(len(s.Metas) - 1)
 }
 
 // variablesOf returns the variables that raw expressions are, which must be different ones.

@@ -47,7 +47,7 @@ func (s *state) atomic(p place, r api.Raw) api.Term {
 		stop.At(api.ErrLevel)
 	}
 	family, ok := s.meaning(p, first.Name).(constant)
-	if !ok || !shape.IsKind(s.sig[family].Class) {
+	if !ok || !shape.IsKind(s.Sig[family].Class) {
 		stop.At(api.ErrLevel)
 	}
 	a, left := s.apply(p, family, written)
@@ -68,10 +68,10 @@ func parts(r api.Raw) (api.Raw, []api.Raw) {
 
 // object returns the object of a raw expression at a type.
 func (s *state) object(p place, r api.Raw, a api.Term) api.Term {
-	a = s.resolved(a)
+	a = s.Resolved(a)
 	switch r.Op {
 	case api.RHole:
-		return s.fresh("", p.ctx, a)
+		return s.Fresh("", p.ctx, a)
 	case api.RLam:
 		return s.function(p, r, a)
 	case api.RName, api.RApp:
@@ -88,7 +88,7 @@ func (s *state) function(p place, r api.Raw, a api.Term) api.Term {
 	}
 	if r.Args[0].Op != api.RHole {
 		written := s.domain(p, r.Args[0])
-		s.demand(p.ctx, written, a.Args[0])
+		s.Demand(p.ctx, written, a.Args[0])
 	}
 	body := s.object(p.below(r.Name, a.Args[0]), r.Args[1], a.Args[1])
 	return scope.Under(1, body)
@@ -107,18 +107,18 @@ func (s *state) application(p place, r api.Raw, a api.Term) api.Term {
 			h = s.firstUse(p, first.Name, written, a)
 		}
 	case constant:
-		if shape.IsKind(s.sig[n].Class) {
+		if shape.IsKind(s.Sig[n].Class) {
 			stop.At(api.ErrLevel)
 		}
 	}
 	t, left := s.apply(p, h, written)
-	left, a = s.resolved(left), s.resolved(a)
+	left, a = s.Resolved(left), s.Resolved(a)
 	domains, _, _ := term.Split(left)
 	if wanted, _, _ := term.Split(a); len(domains) != len(wanted) {
 		stop.At(api.ErrShape)
 	}
 	object := expanded(t, domains)
-	s.demand(p.ctx, left, a)
+	s.Demand(p.ctx, left, a)
 	return object
 }
 
@@ -126,7 +126,7 @@ func (s *state) application(p place, r api.Raw, a api.Term) api.Term {
 func (s *state) apply(p place, h head, written []api.Raw) (api.Term, api.Term) {
 	t, class := h.open(s, p)
 	for _, r := range written {
-		class = s.resolved(class)
+		class = s.Resolved(class)
 		if class.Op != api.TPi {
 			stop.At(api.ErrShape)
 		}

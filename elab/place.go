@@ -50,15 +50,15 @@ type metavariable int
 const unknown metavariable = -1
 
 func (n metavariable) open(s *state, _ place) (api.Term, api.Term) {
-	return api.Term{Op: api.TApp, Head: api.HMeta, N: int(n)}, s.metas[n].Class
+	return api.Term{Op: api.TApp, Head: api.HMeta, N: int(n)}, s.Metas[n].Class
 }
 
 type constant int
 
 func (n constant) open(s *state, p place) (api.Term, api.Term) {
-	metas, objects, left, err := meta.Open(s.metas, p.ctx, s.sig[n].Class, s.sig[n].Implicit)
+	metas, objects, left, err := meta.Open(s.Metas, p.ctx, s.Sig[n].Class, s.Sig[n].Implicit)
 	stop.At(err)
-	s.metas = metas
+	s.Metas = metas
 	return api.Term{Op: api.TApp, Head: api.HCon, N: int(n), Args: objects}, left
 }
 
@@ -68,9 +68,9 @@ func (s *state) meaning(p place, name string) head {
 		return n
 	}
 	if lexis.IsCapital(name) {
-		return metavariable(slices.IndexFunc(s.metas, func(m api.Meta) bool { return m.Name == name }))
+		return metavariable(slices.IndexFunc(s.Metas, func(m api.Meta) bool { return m.Name == name }))
 	}
-	n, err := sign.Find(s.sig, name)
+	n, err := sign.Find(s.Sig, name)
 	if err != api.OK {
 		stop.At(api.ErrName)
 	}

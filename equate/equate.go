@@ -56,7 +56,7 @@ func Spines(sig []api.Decl, ctx []api.Term, a, b api.Term) []api.Equation {
 		stop.At(api.ErrShape)
 	}
 	var list []api.Equation
-	class := classOf(sig, ctx, a)
+	class := scope.ClassOf(sig, ctx, a)
 	for i, object := range a.Args {
 		if class.Op != api.TPi {
 			stop.At(api.ErrShape)
@@ -65,14 +65,6 @@ func Spines(sig []api.Decl, ctx []api.Term, a, b api.Term) []api.Equation {
 		class = stop.Value(subst.Instance(class, []api.Term{object}))
 	}
 	return list
-}
-
-// classOf returns the class of the head of a TApp, which is a constant or a variable that there is.
-func classOf(sig []api.Decl, ctx []api.Term, t api.Term) api.Term {
-	if t.Head == api.HCon {
-		return sig[t.N].Class
-	}
-	return scope.TypeOf(ctx, t.N)
 }
 
 // Resolved returns an equation with new memory, in which everything is resolved.

@@ -8,6 +8,7 @@ import (
 
 	"truss/api"
 	"truss/stop"
+	"truss/subst"
 	"truss/term"
 )
 
@@ -23,6 +24,20 @@ func Longer(ctx []api.Term, a api.Term) []api.Term {
 // TypeOf returns the type of a variable of a context, as it is meant in the whole context.
 func TypeOf(ctx []api.Term, n int) api.Term {
 	return stop.Value(term.Shift(ctx[len(ctx)-1-n], n+1, 0))
+}
+
+// ClassOf returns the class of the head of a TApp, which is a constant or a variable that there is.
+func ClassOf(sig []api.Decl, ctx []api.Term, t api.Term) api.Term {
+	if t.Head == api.HCon {
+		return sig[t.N].Class
+	}
+	return TypeOf(ctx, t.N)
+}
+
+// AreProper reports whether terms are proper.
+func AreProper(terms ...api.Term) bool {
+	isWrong := func(t api.Term) bool { return term.Check(t) != api.OK }
+	return !slices.ContainsFunc(terms, isWrong)
 }
 
 // IsOver reports whether terms are proper, and have metavariables of a list alone.
@@ -57,6 +72,20 @@ func Args(t api.Term, binders int) iter.Seq2[int, api.Term] {
 // Free returns the number of the free variable that the head of a term with so many binders around it is, if it is one.
 func Free(t api.Term, binders int) (int, bool) {
 	return t.N - binders, t.Head == api.HVar && t.N >= binders
+}
+
+// Variables returns the numbers of the variables of which the objects of a spine are the long forms, and whether they are: each
+// one that of another variable.
+func Variables(spine []api.Term) ([]int, bool) {
+	var variables []int
+	for _, object := range spine {
+		head, n, err := subst.Short(object)
+		if err != api.OK || head != api.HVar || slices.Contains(variables, n) {
+			return nil, false
+		}
+		variables = append(variables, n)
+	}
+	return variables, true
 }
 
 // Onto returns a term as it is meant where only these variables are in scope, the last one of them as the variable 0. It

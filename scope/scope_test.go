@@ -51,8 +51,44 @@ func TestContexts(t *testing.T) {
 		t.Error("IsContext is wrong")
 	}
 	for _, x := range build.Improper() {
-		if scope.IsOver(metas, c(0), x) {
-			t.Errorf("IsOver of %v", x)
+		if scope.IsOver(metas, c(0), x) || scope.AreProper(c(0), x) {
+			t.Errorf("IsOver or AreProper of %v", x)
+		}
+	}
+	if !scope.AreProper() || !scope.AreProper(c(0), m(9), v(api.MaxN)) {
+		t.Error("AreProper is wrong")
+	}
+}
+
+// P9.1, P13.2: classes of heads
+
+func TestClassOf(t *testing.T) {
+	sig := build.Numbers()
+	ctx := []api.Term{c(0), c(1, v(0))}
+	expectTerm(t, "ClassOf", func() api.Term { return scope.ClassOf(sig, ctx, c(build.S, v(0))) }, sig[build.S].Class, api.OK)
+	expectTerm(t, "ClassOf", func() api.Term { return scope.ClassOf(sig, ctx, v(0)) }, c(1, v(1)), api.OK)
+	expectTerm(t, "ClassOf", func() api.Term { return scope.ClassOf(sig, ctx, v(1, c(0))) }, c(0), api.OK)
+}
+
+// P8.4, P14.3: spines of variables
+
+func TestVariables(t *testing.T) {
+	for _, x := range []struct {
+		spine []api.Term
+		want  []int
+		ok    bool
+	}{
+		{nil, nil, true},
+		{[]api.Term{v(3), v(0), lam(v(2, v(0)))}, []int{3, 0, 1}, true},
+		{[]api.Term{v(3), lam(v(4, v(0)))}, nil, false},
+		{[]api.Term{v(3), v(3)}, nil, false},
+		{[]api.Term{v(3), c(0)}, nil, false},
+		{[]api.Term{m(0)}, nil, false},
+		{[]api.Term{lam(v(0))}, nil, false},
+		{[]api.Term{v(1, v(0))}, nil, false},
+	} {
+		if got, ok := scope.Variables(x.spine); ok != x.ok || !slices.Equal(got, x.want) {
+			t.Errorf("Variables of %v = %v, %v; want %v, %v", x.spine, got, ok, x.want, x.ok)
 		}
 	}
 }

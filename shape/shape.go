@@ -1,10 +1,12 @@
-// Package shape is about the outermost TPis of proper terms: their domains, and what they are around.
+// Package shape is about the outermost TPis of proper terms: their domains, what they are around, and how they are read as a
+// rule.
 package shape
 
 import (
 	"iter"
 
 	"truss/api"
+	"truss/term"
 )
 
 // Domains visits the domains of the outermost TPis of a term.
@@ -40,4 +42,19 @@ func Target(sig []api.Decl, t api.Term) (int, bool) {
 		return 0, false
 	}
 	return end.N, true
+}
+
+// Clause returns the positions of the outermost TPis of a term whose variables occur in their bodies, and of the others: the
+// dependent arguments and the premises of a rule.
+func Clause(t api.Term) api.Clause {
+	var clause api.Clause
+	for at := 0; t.Op == api.TPi; at++ {
+		t = t.Args[1]
+		if occurs, _ := term.Occurs(t, 0); occurs {
+			clause.Dependent = append(clause.Dependent, at)
+		} else {
+			clause.Premises = append(clause.Premises, at)
+		}
+	}
+	return clause
 }

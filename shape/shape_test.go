@@ -1,6 +1,7 @@
 package shape_test
 
 import (
+	"slices"
 	"testing"
 
 	"truss/api"
@@ -62,6 +63,32 @@ func TestShape(t *testing.T) {
 		target, ok := shape.Target(sig, x.t)
 		if ok != (x.target != none) || ok && target != x.target || !ok && target != 0 {
 			t.Errorf("Target(%v) = %v, %v", x.t, target, ok)
+		}
+	}
+}
+
+// P13.1, P14.2: which arguments are dependent, and which are premises
+
+func TestClause(t *testing.T) {
+	for _, x := range []struct {
+		t                   api.Term
+		dependent, premises []int
+	}{
+		{typ(), nil, nil},
+		{c(0, v(0)), nil, nil},
+		{lam(pi(c(0), v(0))), nil, nil},
+		{to(c(0), c(1), typ()), nil, []int{0, 1}},
+		{pi(c(0), c(1, v(0))), []int{0}, nil},
+		{pi(c(0), pi(c(1, v(0)), c(2))), []int{0}, []int{1}},
+		{pi(c(0), pi(c(1), c(1, v(1)))), []int{0}, []int{1}},
+		{pi(c(0), pi(c(1), c(1, v(0)))), []int{1}, []int{0}},
+		{pi(c(0), pi(c(1), c(1, v(2)))), nil, []int{0, 1}},
+		{pi(c(0), pi(pi(c(0), c(1, v(0))), c(1, lam(v(2))))), []int{0}, []int{1}},
+		{pi(c(0), pi(pi(c(0), c(1, v(1))), pi(c(0), v(0)))), []int{0, 2}, []int{1}},
+	} {
+		got := shape.Clause(x.t)
+		if !slices.Equal(got.Dependent, x.dependent) || !slices.Equal(got.Premises, x.premises) {
+			t.Errorf("Clause(%v) = %v, want %v, %v", x.t, got, x.dependent, x.premises)
 		}
 	}
 }
