@@ -45,6 +45,7 @@ func TestArguments(t *testing.T) {
 		expectArg(t, whole(), append(right[:2:2], wrong))
 		expectArg(t, whole(), append([]api.Mode{wrong}, right...))
 	}
+	expectArg(t, whole(), []api.Mode{{Family: len(whole())}})
 	// Two modes of one family.
 	expectArg(t, whole(), append(right[:2:2], right[0]))
 	expectArg(t, whole(), append(right[:2:2], api.Mode{Family: nat}))

@@ -67,23 +67,33 @@ func (r result) solution() api.Found {
 func (s *searcher) derive(state known.State, ctx []api.Term, goal api.Term, depth int) iter.Seq[result] {
 	return func(yield func(result) bool) {
 		a := state.Resolved(goal)
-		if a.Op == api.TPi {
-			for r := range s.derive(state, scope.Longer(ctx, a.Args[0]), a.Args[1], depth) {
-				r.object = api.Term{Op: api.TLam, Args: []api.Term{r.object}}
-				if !yield(r) {
-					return
-				}
-			}
-			return
-		}
-		family, ok := shape.Target(state.Sig, a)
-		if !ok {
-			return
-		}
-		if depth == 0 {
+		family, hasTarget := shape.Target(state.Sig, a)
+		switch {
+		case a.Op == api.TPi:
+			s.functions(state, ctx, a, depth)(yield)
+		case hasTarget && depth == 0:
 			s.cut = true
-			return
+		case hasTarget:
+			s.applications(state, ctx, family, a, depth)(yield)
 		}
+	}
+}
+
+// functions visits the results of a TPi: those of its body, with a TLam around the object.
+func (s *searcher) functions(state known.State, ctx []api.Term, a api.Term, depth int) iter.Seq[result] {
+	return func(yield func(result) bool) {
+		for r := range s.derive(state, scope.Longer(ctx, a.Args[0]), a.Args[1], depth) {
+			r.object = api.Term{Op: api.TLam, Args: []api.Term{r.object}}
+			if !yield(r) {
+				return
+			}
+		}
+	}
+}
+
+// applications visits the results of a type that is a family with arguments: those of each head.
+func (s *searcher) applications(state known.State, ctx []api.Term, family int, a api.Term, depth int) iter.Seq[result] {
+	return func(yield func(result) bool) {
 		for head := range heads(state.Sig, ctx, family) {
 			for r := range s.try(state, ctx, head, a, depth) {
 				if !yield(r) {
@@ -98,21 +108,18 @@ func (s *searcher) derive(state known.State, ctx []api.Term, goal api.Term, dept
 func (s *searcher) try(state known.State, ctx []api.Term, head, goal api.Term, depth int) iter.Seq[result] {
 	return func(yield func(result) bool) {
 		s.count()
-		object, premises, left := opened(&state, ctx, head)
+		next := state
+		object, premises, left := opened(&next, ctx, head)
 		after, err := stop.Result(func() known.State {
-			state.Demand(ctx, left, goal)
-			return state
+			next.Demand(ctx, left, goal)
+			return next
 		})
 		switch err {
 		case api.ErrClash, api.ErrScope, api.ErrShape:
 			return
 		}
 		stop.At(err)
-		for r := range s.prove(result{after, object}, ctx, premises, depth-1) {
-			if !yield(r) {
-				return
-			}
-		}
+		s.prove(result{after, object}, ctx, premises, depth-1)(yield)
 	}
 }
 
@@ -122,8 +129,8 @@ type premise struct {
 	goal api.Term
 }
 
-// opened returns a head with new metavariables as its dependent arguments, its premises, for whose objects there is room in the
-// spine, and what is left of its class.
+// opened returns a head with new metavariables as its dependent arguments, and room for the objects of its premises; these; and
+// what is left of its class.
 func opened(state *known.State, ctx []api.Term, head api.Term) (api.Term, []premise, api.Term) {
 	left := scope.ClassOf(state.Sig, ctx, head)
 	clause := shape.Clause(left)

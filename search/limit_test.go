@@ -57,7 +57,7 @@ func many(count int, name, class string) string {
 
 func TestMaxTries(t *testing.T) {
 	// 1 + 62 + 62 * 62 tries of two, 1 + 62 of one, and 1 of each of the others.
-	source := "a : type. void : type. q : type. two : void -> a -> a -> q. one : void -> a -> q. " + many(62, "a", "a")
+	source := "a : type. void : type. free : type. q : type. two : void -> a -> a -> q. one : void -> a -> q. " + many(62, "a", "a")
 	const others = api.MaxTries - (1 + 62 + 62*62) - (1 + 62)
 	all := goalOf(t, written.Sig(source+many(others, "q", "void -> q")), "q")
 	all.expectCount(t, 2, 9, 0, false)
@@ -65,7 +65,9 @@ func TestMaxTries(t *testing.T) {
 	more := goalOf(t, written.Sig(source+many(others+1, "q", "void -> q")), "q")
 	more.expectError(t, 3, 9, api.ErrFuel)
 	more.expectCount(t, 1, 9, 0, true)
-	// A try of a variable of the context is one.
+	// Below binders there are no other tries; a try of a variable of the context is one.
+	goal{sig: all.sig, a: to(c(written.Constant(all.sig, "free")), all.a)}.expectCount(t, 3, 9, 0, false)
+	goal{sig: all.sig, a: to(all.a, all.a)}.expectError(t, 3, 9, api.ErrFuel)
 	all.in(t, "a").expectError(t, 3, 9, api.ErrFuel)
 	all.in(t, "q").expectError(t, 3, 9, api.ErrFuel)
 	// Solutions that are found before it does not matter; fewer of them than are asked for are lost.
